@@ -99,7 +99,7 @@ func TestWellFormed(t *testing.T) {
 		{seg(1): one + frames},
 		{seg(1): one + frames + "torn"},
 		{seg(1): one + strings.Repeat("\x00", 5000)},
-		{seg(1): one + "torn" + two},           // nothing counts behind what is torn
+		{seg(1): one + "torn" + two},            // nothing counts behind what is torn
 		{seg(1): one + rawFrame(3, number(16))}, // a frame of kind Check is in no group
 		{seg(1): one + rawFrame(3, number(16)) + two},
 		{seg(1): one + opFrames(someOps(1, 257)) + rawFrame(2, "any")}, // neither are these operations
